@@ -11,6 +11,7 @@ import (
 
 	"beadle/api"
 	"beadle/ask"
+	"beadle/testkit"
 )
 
 // named: by the names of its fields, what the chapter's table says of each kind, and whether it is so.
@@ -619,7 +620,7 @@ func TestBytesOfPartsWithinParts(t *testing.T) {
 }
 
 func TestOtherBytesAreOtherCalls(t *testing.T) {
-	next := walk()
+	next := testkit.Walk()
 	for range 120 {
 		a := anyAsk(next)
 		a.Parts = a.Parts[:min(len(a.Parts), 3)]
@@ -672,7 +673,7 @@ func anyFields(next func(int) int, kind api.AskKind) api.Ask {
 }
 
 func TestCallsThatArePutAreGot(t *testing.T) {
-	next := walk()
+	next := testkit.Walk()
 	for range 20000 {
 		a := anyAsk(next)
 		if !check(t, a) {

@@ -8,6 +8,7 @@ import (
 
 	"beadle/api"
 	"beadle/ask"
+	"beadle/testkit"
 )
 
 func rightEvent(e api.Event) bool {
@@ -106,7 +107,7 @@ func TestBytesThatAreNoEvents(t *testing.T) {
 		noEvent(t, "a path's length", slices.Concat([]byte{2, 1}, n, []byte{'/', 'a', 14}))
 	}
 	noEvent(t, "a path's length with a nought ahead", []byte{2, 1, 0x84, 0, '/', 'a', 14})
-	next := walk()
+	next := testkit.Walk()
 	for range 200000 {
 		b := make([]byte, next(9))
 		for i := range b {
@@ -119,7 +120,7 @@ func TestBytesThatAreNoEvents(t *testing.T) {
 // P6.6, of events
 
 func TestEventsThatArePutAreGot(t *testing.T) {
-	next := walk()
+	next := testkit.Walk()
 	for range 2000 {
 		e := api.Event{Kind: api.EventKind(1 + next(4)), Sort: api.WatchSort(1 + next(3)), Path: anyText(next), Zxid: api.Zxid(anyNumber(next))}
 		if !checkEvent(t, e) {

@@ -97,15 +97,6 @@ func short(x any) string {
 	return s[:min(len(s), 400)]
 }
 
-// walk: numbers below most, spread, always the same ones.
-func walk() func(most int) int {
-	state := uint64(1)
-	return func(most int) int {
-		state = state*6364136223846793005 + 1442695040888963407
-		return int(state >> 33 % uint64(most))
-	}
-}
-
 func anyNumber(next func(int) int) int64 {
 	return int64(next(1<<31)) >> next(31) << []int{0, 0, 0, 32}[next(4)]
 }

@@ -11,6 +11,7 @@ import (
 
 	"beadle/api"
 	"beadle/ask"
+	"beadle/testkit"
 )
 
 func modelConfig(e api.Ensemble) bool {
@@ -377,7 +378,7 @@ func TestBytesOfRepliesWithinReplies(t *testing.T) {
 }
 
 func TestOtherBytesAreOtherReplies(t *testing.T) {
-	next := walk()
+	next := testkit.Walk()
 	for range 60 {
 		r := anyReply(next, true)
 		r.Data = r.Data[:min(len(r.Data), 3)]
@@ -419,7 +420,7 @@ func anyReply(next func(int) int, whole bool) api.Reply {
 }
 
 func TestRepliesThatArePutAreGot(t *testing.T) {
-	next := walk()
+	next := testkit.Walk()
 	for range 2000 {
 		r := anyReply(next, true)
 		if !checkReply(t, r) {

@@ -13,6 +13,7 @@ import (
 
 	"beadle/api"
 	"beadle/deed"
+	"beadle/testkit"
 )
 
 // The model knows paths only as the tests use them: these are right, all others are not.
@@ -265,15 +266,6 @@ func modelOf(p string) string {
 		return "/a"
 	}
 	return p
-}
-
-// walk: numbers below most, spread, always the same ones.
-func walk() func(most int) int {
-	state := uint64(1)
-	return func(most int) int {
-		state = state*6364136223846793005 + 1442695040888963407
-		return int(state >> 33 % uint64(most))
-	}
 }
 
 func part(kind api.DeedKind, p string) api.Deed { return api.Deed{Kind: kind, Path: p} }
@@ -891,7 +883,7 @@ func TestBytesOfPartsWithinParts(t *testing.T) {
 // P5.4
 
 func TestZxidsStandInOrder(t *testing.T) {
-	next := walk()
+	next := testkit.Walk()
 	pick := func() (int, int) {
 		epochs := []int{0, 1, 2, 1<<30 - 1, 1 << 30, next(1<<30 + 1)}
 		counters := []int{0, 1, 1<<32 - 2, 1<<32 - 1, next(1 << 31), next(1<<31) + 1<<31}
@@ -953,7 +945,7 @@ func anyFields(next func(int) int, kind api.DeedKind, number func() int64) api.D
 }
 
 func TestWhatIsPutIsGot(t *testing.T) {
-	next := walk()
+	next := testkit.Walk()
 	for range 20000 {
 		d := anyDeed(next)
 		if !check(t, d) {
@@ -967,7 +959,7 @@ func TestWhatIsPutIsGot(t *testing.T) {
 }
 
 func TestOtherBytesAreOtherDeeds(t *testing.T) {
-	next := walk()
+	next := testkit.Walk()
 	for range 300 {
 		d := anyDeed(next)
 		if len(d.Parts) > 3 {
@@ -1056,22 +1048,14 @@ func checkRoom(t *testing.T, d, like api.Deed) {
 	}
 }
 
-// spoil overwrites a list and its spare room.
-func spoil[T any](l []T, with T) {
-	full := l[:cap(l)]
-	for i := range full {
-		full[i] = with
-	}
-}
-
 // spoilDeed overwrites each list of d, those of its parts first.
 func spoilDeed(d api.Deed) {
 	for _, part := range d.Parts {
 		spoilDeed(part)
 	}
-	spoil(d.Data, 0xdd)
-	spoil(d.Config.Members, api.Member{Id: 77})
-	spoil(d.Parts, api.Deed{Zxid: 77, Path: "spoilt"})
+	testkit.Spoil(d.Data, 0xdd)
+	testkit.Spoil(d.Config.Members, api.Member{Id: 77})
+	testkit.Spoil(d.Parts, api.Deed{Zxid: 77, Path: "spoilt"})
 }
 
 func TestArgumentsStayAsTheyAre(t *testing.T) {
@@ -1083,7 +1067,7 @@ func TestArgumentsStayAsTheyAre(t *testing.T) {
 		given := roomyDeed(d)
 		deed.Right(given)
 		b, _ := deed.Put(given)
-		spoil(b, 0xdd)
+		testkit.Spoil(b, 0xdd)
 		checkRoom(t, given, d)
 	}
 	for _, d := range eachKind() {
@@ -1105,7 +1089,7 @@ func TestArgumentsAreNotKept(t *testing.T) {
 			t.Errorf("Put's bytes of kind %d hang on what was put", d.Kind)
 		}
 		got, _ := deed.Get(b)
-		spoil(b, 0xdd)
+		testkit.Spoil(b, 0xdd)
 		if !same(got, d) {
 			t.Errorf("Get's deed of kind %d hangs on its bytes", d.Kind)
 		}
@@ -1117,7 +1101,7 @@ func TestAnswersShareNothing(t *testing.T) {
 		want := modelBytes(d)
 		one, _ := deed.Put(d)
 		other, _ := deed.Put(d)
-		spoil(one, 0xdd)
+		testkit.Spoil(one, 0xdd)
 		if !bytes.Equal(other, want) {
 			t.Errorf("Put's answers of kind %d share memory", d.Kind)
 		}
@@ -1133,12 +1117,12 @@ func TestAnswersShareNothing(t *testing.T) {
 
 // The lists of one answer: none lies in another's spare room.
 func TestListsOfOneAnswerShareNothing(t *testing.T) {
-	next := walk()
+	next := testkit.Walk()
 	for range 300 {
 		d := anyDeed(next)
 		got, _ := deed.Get(modelBytes(d))
 		for i := range got.Parts {
-			spoil(got.Parts[i].Data, 0xdd)
+			testkit.Spoil(got.Parts[i].Data, 0xdd)
 			for j := range got.Parts {
 				if j > i && !same(got.Parts[j], d.Parts[j]) {
 					t.Errorf("parts %d and %d share memory", i, j)
@@ -1150,7 +1134,7 @@ func TestListsOfOneAnswerShareNothing(t *testing.T) {
 		}
 		if len(got.Parts) > 0 {
 			parts := slices.Clone(got.Parts)
-			spoil(got.Parts[len(got.Parts):], api.Deed{Zxid: 77})
+			testkit.Spoil(got.Parts[len(got.Parts):], api.Deed{Zxid: 77})
 			if !slices.EqualFunc(parts, got.Parts, same) {
 				t.Error("parts lie in their spare room")
 			}

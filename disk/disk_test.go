@@ -10,6 +10,7 @@ import (
 
 	"beadle/api"
 	"beadle/disk"
+	"beadle/testkit"
 )
 
 const maxFile = 1 << 22
@@ -328,7 +329,7 @@ func TestListRises(t *testing.T) {
 	if !slices.IsSorted(want) {
 		t.Fatal("the test's own list does not rise")
 	}
-	next := walk()
+	next := testkit.Walk()
 	for range 30 {
 		d, left := disk.New(0), slices.Clone(want)
 		for len(left) > 0 {
@@ -487,7 +488,7 @@ func TestCrashOfNoFiles(t *testing.T) {
 }
 
 func TestWhatWasSyncedStays(t *testing.T) {
-	next := walk()
+	next := testkit.Walk()
 	for range 300 {
 		d := disk.New(1000)
 		var all, synced []byte
@@ -644,14 +645,6 @@ func TestBytesHandedInAreNeitherKeptNorChanged(t *testing.T) {
 	}
 }
 
-// spoil overwrites b and its spare room.
-func spoil(b []byte) {
-	b = b[:cap(b)]
-	for i := range b {
-		b[i] = 'Z'
-	}
-}
-
 func TestBytesHandedOutAreNew(t *testing.T) {
 	for n := range 40 {
 		what := fmt.Sprintf("%d bytes", n)
@@ -669,11 +662,11 @@ func TestBytesHandedOutAreNew(t *testing.T) {
 			other := d.Copy()
 			one, _ := d.Read("a")
 			two, _ := d.Read("a")
-			spoil(one)
+			testkit.Spoil(one, 'Z')
 			if string(two) != want {
 				t.Errorf("%s, %s: two answers share memory", what, when)
 			}
-			spoil(two)
+			testkit.Spoil(two, 'Z')
 			checkRead(t, what+", "+when, d, "a", want)
 			checkRead(t, what+", "+when+", a copy", other, "a", want)
 			three, _ := other.Read("a")
@@ -798,7 +791,7 @@ func TestAllShortRows(t *testing.T) {
 
 // TestLongRows goes on with one disk, and sometimes with a copy of it, for long, without copies between.
 func TestLongRows(t *testing.T) {
-	next := walk()
+	next := testkit.Walk()
 	names := []string{"a", "b", "c", "a.0", "-", "", "A", strings.Repeat("n", 30), strings.Repeat("n", 31)}
 	name := func() string { return names[next(len(names))] }
 	for round := range 60 {

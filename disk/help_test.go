@@ -246,12 +246,3 @@ func checkUsed(t *testing.T, what string, d *disk.Disk, want int) {
 		t.Errorf("%s: Used %d, want %d", what, got, want)
 	}
 }
-
-// walk: numbers below most, spread, always the same ones.
-func walk() func(most int) int {
-	state := uint64(1)
-	return func(most int) int {
-		state = state*6364136223846793005 + 1442695040888963407
-		return int(state >> 33 % uint64(most))
-	}
-}

@@ -11,6 +11,7 @@ import (
 
 	"beadle/api"
 	"beadle/ensemble"
+	"beadle/testkit"
 )
 
 // modelMayBe: a config that may be, as the chapter's Words tell it, thing by thing.
@@ -127,15 +128,6 @@ func subset(bits int) []int {
 	return ids
 }
 
-// walk: numbers below most, spread, always the same ones.
-func walk() func(most int) int {
-	state := uint64(1)
-	return func(most int) int {
-		state = state*6364136223846793005 + 1442695040888963407
-		return int(state >> 33 % uint64(most))
-	}
-}
-
 // smallConfigs: all of up to four members out of a few sorts, right ones and those without weight.
 func smallConfigs() []api.Ensemble {
 	sorts := []func(id int) []api.Member{
@@ -163,7 +155,7 @@ func smallConfigs() []api.Ensemble {
 // largeConfigs: n that may be, of up to seven members, with all groups and weights to the limit.
 func largeConfigs(n int) []api.Ensemble {
 	var out []api.Ensemble
-	next := walk()
+	next := testkit.Walk()
 	for len(out) < n {
 		e := api.Ensemble{Version: api.Zxid(next(1 << 30))}
 		mostWeight, mostGroup := []int{2, 5, 1001}[next(3)], 1+next(7)
@@ -734,7 +726,7 @@ func TestOtherBytesAreOtherConfigs(t *testing.T) {
 			t.Errorf("Get(%x): %v", b, got)
 		}
 	}
-	next := walk()
+	next := testkit.Walk()
 	for _, e := range largeConfigs(300) {
 		b := modelRow(e)
 		for i := range b {
@@ -843,14 +835,6 @@ func checkRoom[T any](t *testing.T, what string, l, like []T) {
 	}
 }
 
-// spoil overwrites a list and its spare room.
-func spoil[T any](l []T, with T) {
-	full := l[:cap(l)]
-	for i := range full {
-		full[i] = with
-	}
-}
-
 func TestArgumentsStayAsTheyAre(t *testing.T) {
 	right := []api.Member{voter(1, 1, 0), observer(2), voter(3, 1, 6)}
 	for _, members := range [][]api.Member{right, {voter(3, 1, 0), voter(1, 1, 0)}, voters(1, 1, 1, 1, 1, 1, 1, 1).Members} {
@@ -863,7 +847,7 @@ func TestArgumentsStayAsTheyAre(t *testing.T) {
 		ensemble.Quorum(e, ids)
 		ensemble.All(l, ids)
 		b, _ := ensemble.Put(e)
-		spoil(b, 0xdd)
+		testkit.Spoil(b, 0xdd)
 		checkRoom(t, "members", e.Members, roomyMembers(members))
 		checkRoom(t, "ids", ids, roomyIds([]int{3, 1, 1, 9, 2}))
 		if !reflect.DeepEqual(l[:2], []api.Ensemble{{Version: 5, Members: members}, voters(1)}) {
@@ -873,7 +857,7 @@ func TestArgumentsStayAsTheyAre(t *testing.T) {
 	for _, row := range [][]byte{modelRow(config(right...)), {0, 2, 2, 2}, {}} {
 		b := roomyBytes(row)
 		e, _ := ensemble.Get(b)
-		spoil(e.Members, api.Member{Id: 77})
+		testkit.Spoil(e.Members, api.Member{Id: 77})
 		checkRoom(t, "bytes", b, roomyBytes(row))
 	}
 }
@@ -882,18 +866,18 @@ func TestArgumentsAreNotKept(t *testing.T) {
 	e := voters(1, 2, 3)
 	want := modelRow(e)
 	b, _ := ensemble.Put(e)
-	spoil(e.Members, api.Member{})
+	testkit.Spoil(e.Members, api.Member{})
 	if !bytes.Equal(b, want) {
 		t.Errorf("Put's bytes hang on what was put: %x", b)
 	}
 	got, _ := ensemble.Get(b)
-	spoil(b, 0xdd)
+	testkit.Spoil(b, 0xdd)
 	if !slices.Equal(got.Members, voters(1, 2, 3).Members) {
 		t.Errorf("Get's config hangs on its bytes: %v", got)
 	}
 	ids := []int{1, 2}
 	first := ensemble.Quorum(voters(1, 1, 1), ids)
-	spoil(ids, 9)
+	testkit.Spoil(ids, 9)
 	if !first || ensemble.Quorum(voters(1, 1, 1), ids) || !ensemble.Quorum(voters(1, 1, 1), []int{2, 3}) {
 		t.Error("Quorum hangs on ids of an earlier call")
 	}
@@ -904,17 +888,17 @@ func TestAnswersShareNothing(t *testing.T) {
 		want := modelRow(e)
 		a, _ := ensemble.Put(e)
 		b, _ := ensemble.Put(e)
-		spoil(a, 0xdd)
+		testkit.Spoil(a, 0xdd)
 		if !bytes.Equal(b, want) {
 			t.Errorf("Put's answers share memory: %x", b)
 		}
 		one, _ := ensemble.Get(want)
 		other, _ := ensemble.Get(want)
-		spoil(one.Members, api.Member{Id: 77})
+		testkit.Spoil(one.Members, api.Member{Id: 77})
 		if !slices.Equal(other.Members, e.Members) {
 			t.Errorf("Get's answers share memory: %v", other)
 		}
-		spoil(b, 0xdd)
+		testkit.Spoil(b, 0xdd)
 		checkThereAndBack(t, e)
 	}
 }

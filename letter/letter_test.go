@@ -12,6 +12,7 @@ import (
 	"beadle/ask"
 	"beadle/deed"
 	"beadle/letter"
+	"beadle/testkit"
 )
 
 // named: by the names of its fields, what the chapter's table says of each kind, and whether it is so.
@@ -844,7 +845,7 @@ func TestPartsThatAreNone(t *testing.T) {
 }
 
 func TestRowsOfBytes(t *testing.T) {
-	next := walk()
+	next := testkit.Walk()
 	for range 60000 {
 		inner := make(line, next(9))
 		for i := range inner {
@@ -903,7 +904,7 @@ func anyLetter(next func(int) int) api.Letter {
 }
 
 func TestLettersThatArePutAreGot(t *testing.T) {
-	next := walk()
+	next := testkit.Walk()
 	for range 10000 {
 		l := anyLetter(next)
 		if !check(t, l) {
@@ -917,7 +918,7 @@ func TestLettersThatArePutAreGot(t *testing.T) {
 }
 
 func TestBytesThatAreNearlyLetters(t *testing.T) {
-	next := walk()
+	next := testkit.Walk()
 	for range 300 {
 		inner := slices.Concat(pieces(anyLetter(next))...)
 		turnBytes(next, inner[:min(len(inner), 60)], func(b []byte) {

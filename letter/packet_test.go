@@ -8,6 +8,7 @@ import (
 
 	"beadle/api"
 	"beadle/letter"
+	"beadle/testkit"
 )
 
 func rightPacket(p api.Packet) bool {
@@ -193,7 +194,7 @@ func TestNumbersOfPackets(t *testing.T) {
 }
 
 func TestRowsOfBytesAsPackets(t *testing.T) {
-	next := walk()
+	next := testkit.Walk()
 	for range 100000 {
 		inner := make(line, next(10))
 		for i := range inner {
@@ -207,7 +208,7 @@ func TestRowsOfBytesAsPackets(t *testing.T) {
 // P7.4, of packets
 
 func TestPacketsThatArePutAreGot(t *testing.T) {
-	next := walk()
+	next := testkit.Walk()
 	count := func() int { return int(anyNumber(next) % (1<<40 + 1)) }
 	for range 400 {
 		p := api.Packet{From: 1 + count()%(1<<40), To: count(), Ack: count()}

@@ -219,20 +219,3 @@ func met(t *testing.T, incA, incB int) (*link.Link, *link.Link) {
 func about(x int) []int {
 	return []int{x - 1, x, x + 1, x + 2, -x - 1, 0, 1, x + 1<<32, math.MinInt, math.MinInt + 1, math.MaxInt - 1, math.MaxInt}
 }
-
-// spoil overwrites b and its spare room.
-func spoil(b []byte) {
-	b = b[:cap(b)]
-	for i := range b {
-		b[i] = 'Z'
-	}
-}
-
-// walk: numbers below most, spread, always the same ones.
-func walk() func(most int) int {
-	state := uint64(1)
-	return func(most int) int {
-		state = state*6364136223846793005 + 1442695040888963407
-		return int(state >> 33 % uint64(most))
-	}
-}

@@ -9,6 +9,7 @@ import (
 
 	"beadle/api"
 	"beadle/link"
+	"beadle/testkit"
 )
 
 // The chapter's examples.
@@ -496,7 +497,7 @@ func handOn(a, b *side, most int) {
 }
 
 func TestWhatComesIsTheBeginningOfWhatWasSent(t *testing.T) {
-	next := walk()
+	next := testkit.Walk()
 	for round := range 200 {
 		sides := []*side{{l: link.New(5 + round%3)}, {l: link.New(6)}}
 		for i := range 300 {
@@ -547,7 +548,7 @@ func TestAllOfMostLoadsComes(t *testing.T) {
 
 // TestNothingIsToldInAnotherConnection: sides are reset now and then, while packets of all connections are still brought.
 func TestNothingIsToldInAnotherConnection(t *testing.T) {
-	next := walk()
+	next := testkit.Walk()
 	for round := range 300 {
 		sides := []*side{{l: link.New(1), inc: 1}, {l: link.New(1), inc: 1}}
 		toldIn := map[string]string{}
@@ -649,13 +650,13 @@ func TestBytesHandedInAreNeitherKeptNorChanged(t *testing.T) {
 				t.Fatal(e)
 			}
 		}
-		spoil(a.Out().Load)
+		testkit.Spoil(a.Out().Load, 'Z')
 		got, _, _ := b.Take(api.Packet{From: 5, To: 9, Seq: 1, Load: full[:size]})
-		spoil(got)
+		testkit.Spoil(got, 'Z')
 		if string(full) != want+strings.Repeat("b", 20) {
 			t.Errorf("%d bytes handed in are changed, or the room behind them: %s", size, full)
 		}
-		spoil(full)
+		testkit.Spoil(full, 'Z')
 		checkOut(t, "changed afterwards", a, packet(5, 9, 1, 0, want))
 		a.Take(b.Out())
 		checkOut(t, "changed afterwards", a, packet(5, 9, 2, 0, want))
@@ -667,7 +668,7 @@ func TestTakenLoadsAreNoPartOfThePacket(t *testing.T) {
 		_, b := met(t, 5, 9)
 		full := []byte(strings.Repeat("b", size+20))
 		got, ok, _ := b.Take(api.Packet{From: 5, To: 9, Seq: 1, Load: full[:size]})
-		spoil(full)
+		testkit.Spoil(full, 'Z')
 		if string(got) != strings.Repeat("b", size) || !ok {
 			t.Errorf("what was told changes with the packet: %s", got)
 		}
@@ -686,7 +687,7 @@ func TestLoadsHandedOutAreNew(t *testing.T) {
 			checkSend(t, what, a, want, api.OK)
 		}
 		one, two := a.Out().Load, a.Out().Load
-		spoil(one)
+		testkit.Spoil(one, 'Z')
 		if string(two) != want {
 			t.Errorf("%s: two answers share memory", what)
 		}
@@ -696,8 +697,8 @@ func TestLoadsHandedOutAreNew(t *testing.T) {
 		if string(kept) != want+"more" {
 			t.Errorf("%s: an answer changes as the link goes on", what)
 		}
-		spoil(kept)
-		spoil(two)
+		testkit.Spoil(kept, 'Z')
+		testkit.Spoil(two, 'Z')
 		checkOut(t, what, a, packet(5, 9, 2, 0, want))
 		checkNothing(t, what, a, packet(9, 5, 0, 2, ""), false)
 		checkOut(t, what, a, packet(5, 9, 3, 0, "else"))
@@ -771,7 +772,7 @@ func TestAllShortRows(t *testing.T) {
 
 // TestLongRows goes on with one link for long, whatever packets come.
 func TestLongRows(t *testing.T) {
-	next := walk()
+	next := testkit.Walk()
 	for round := range 60 {
 		w := newTwin(t, fmt.Sprintf("round %d", round), 1+next(5))
 		near := func(x int) int { return x + next(4) - 1 }

@@ -193,20 +193,3 @@ func filled(t *testing.T, count int) (*net.Net, []string) {
 func noPlaces(count int) []int {
 	return []int{math.MinInt, math.MinInt + 1, -1 << 32, -count - 1, -2, -1, count, count + 1, 1 << 32, 1<<32 + count/2, math.MaxInt - 1, math.MaxInt}
 }
-
-// spoil overwrites b and its spare room.
-func spoil(b []byte) {
-	b = b[:cap(b)]
-	for i := range b {
-		b[i] = 'Z'
-	}
-}
-
-// walk: numbers below most, spread, always the same ones.
-func walk() func(most int) int {
-	state := uint64(1)
-	return func(most int) int {
-		state = state*6364136223846793005 + 1442695040888963407
-		return int(state >> 33 % uint64(most))
-	}
-}

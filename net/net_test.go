@@ -8,6 +8,7 @@ import (
 	"testing"
 
 	"beadle/net"
+	"beadle/testkit"
 )
 
 // The chapter's examples.
@@ -247,7 +248,7 @@ func TestLinksRise(t *testing.T) {
 			want = append(want, [2]int{from, to})
 		}
 	}
-	next := walk()
+	next := testkit.Walk()
 	for range 10 {
 		n, left := net.New(), slices.Clone(want)
 		for len(left) > 0 {
@@ -321,7 +322,7 @@ func TestOneLinkChangesNoOther(t *testing.T) {
 }
 
 func TestTakenAsOftenAsSentAndDoubled(t *testing.T) {
-	next := walk()
+	next := testkit.Walk()
 	for range 200 {
 		n, may := net.New(), map[string]int{}
 		for i := range 100 {
@@ -398,11 +399,11 @@ func TestBytesHandedInAreNeitherKeptNorChanged(t *testing.T) {
 		}
 		checkTwice(t, "doubled", n, 1, 2, 0, true)
 		b, _ := n.Take(1, 2, 1)
-		spoil(b)
+		testkit.Spoil(b, 'Z')
 		if string(full) != strings.Repeat("b", size+20) {
 			t.Errorf("%d bytes handed in are changed, or the room behind them: %s", size, full)
 		}
-		spoil(full)
+		testkit.Spoil(full, 'Z')
 		want := strings.Repeat("b", size)
 		checkBag(t, "changed afterwards", n, 1, 2, want, want, want)
 	}
@@ -420,7 +421,7 @@ func TestBytesHandedOutAreNew(t *testing.T) {
 			checkSend(t, what, n, 1, 2, want, true)
 			one, _ := n.Take(1, 2, at)
 			two, _ := n.Take(1, 2, at/2)
-			spoil(one)
+			testkit.Spoil(one, 'Z')
 			if string(two) != want {
 				t.Errorf("%s: two answers share memory", what)
 			}
@@ -430,8 +431,8 @@ func TestBytesHandedOutAreNew(t *testing.T) {
 			if string(kept) != want+"more" {
 				t.Errorf("%s: an answer changes as the net goes on", what)
 			}
-			spoil(kept)
-			spoil(two)
+			testkit.Spoil(kept, 'Z')
+			testkit.Spoil(two, 'Z')
 			checkBag(t, what, n, 1, 2, want, want, want, "else")
 			if string(one) != strings.Repeat("Z", size) {
 				t.Errorf("%s: an answer changes as the net goes on: %s", what, one)
@@ -534,7 +535,7 @@ func TestAllShortRows(t *testing.T) {
 
 // TestLongRows goes on with one net for long; its bags come to be full and empty again.
 func TestLongRows(t *testing.T) {
-	next := walk()
+	next := testkit.Walk()
 	nodes := []int{1, 2, 3, -1, math.MinInt, math.MaxInt}
 	for round := range 60 {
 		n, m := net.New(), &model{}

@@ -11,6 +11,7 @@ import (
 	"testing"
 
 	"beadle/api"
+	"beadle/testkit"
 	"beadle/wire"
 )
 
@@ -741,14 +742,6 @@ func checkRoom(t *testing.T, what string, b, want []byte) {
 	checkBytes(t, what+": the spare room", b[len(b):len(b)+64], bytes.Repeat([]byte{0xee}, 64))
 }
 
-// spoil overwrites a list, and puts more into its spare room.
-func spoil(b []byte) {
-	full := b[:cap(b)]
-	for i := range full {
-		full[i] = 0xdd
-	}
-}
-
 func TestArgumentsStayAsTheyAre(t *testing.T) {
 	row := roomy([]byte{1, 2, 3})
 	w := wire.NewWriter()
@@ -759,19 +752,19 @@ func TestArgumentsStayAsTheyAre(t *testing.T) {
 
 	read := roomy([]byte{6, 1, 2, 3, 2})
 	r := wire.NewReader(read)
-	spoil(r.Bytes(3))
+	testkit.Spoil(r.Bytes(3), 0xdd)
 	r.Int()
 	r.Byte()
 	checkRoom(t, "NewReader", read, []byte{6, 1, 2, 3, 2})
 
 	f, _ := wire.Frame(row)
-	spoil(f)
+	testkit.Spoil(f, 0xdd)
 	wire.Sum(row)
 	checkRoom(t, "Frame, Sum", row, []byte{1, 2, 3})
 
 	framed := roomy(modelFrame([]byte{1, 2, 3}))
 	b, _, _ := wire.Unframe(framed)
-	spoil(b)
+	testkit.Spoil(b, 0xdd)
 	checkRoom(t, "Unframe", framed, modelFrame([]byte{1, 2, 3}))
 }
 
@@ -779,12 +772,12 @@ func TestArgumentsAreNotKept(t *testing.T) {
 	row := []byte{1, 2, 3}
 	w := wire.NewWriter()
 	w.Bytes(row)
-	spoil(row)
+	testkit.Spoil(row, 0xdd)
 	checkBytes(t, "a writer", w.Done(), []byte{6, 1, 2, 3})
 
 	read := []byte{6, 1, 2, 3, 5}
 	r := wire.NewReader(read)
-	spoil(read)
+	testkit.Spoil(read, 0xdd)
 	checkBytes(t, "a reader", r.Bytes(3), []byte{1, 2, 3})
 	if b := r.Byte(); b != 5 {
 		t.Errorf("a reader's byte: %d", b)
@@ -792,12 +785,12 @@ func TestArgumentsAreNotKept(t *testing.T) {
 
 	row = []byte{1, 2, 3}
 	f, _ := wire.Frame(row)
-	spoil(row)
+	testkit.Spoil(row, 0xdd)
 	checkBytes(t, "a frame", f, modelFrame([]byte{1, 2, 3}))
 
 	framed := modelFrame([]byte{1, 2, 3})
 	b, _, _ := wire.Unframe(framed)
-	spoil(framed)
+	testkit.Spoil(framed, 0xdd)
 	checkBytes(t, "what a frame held", b, []byte{1, 2, 3})
 }
 
@@ -806,27 +799,27 @@ func TestAnswersShareNothing(t *testing.T) {
 	for range 20 {
 		w.Byte(1)
 		first, second := w.Done(), w.Done()
-		spoil(first)
+		testkit.Spoil(first, 0xdd)
 		checkBytes(t, "second Done", second, w.Done())
 		if slices.Contains(second, 0xdd) {
 			t.Error("Done's answers share memory")
 		}
-		spoil(second)
+		testkit.Spoil(second, 0xdd)
 	}
 	checkBytes(t, "all", w.Done(), bytes.Repeat([]byte{1}, 20))
 	first := w.Done()
 	w.Byte(2)
-	spoil(first)
+	testkit.Spoil(first, 0xdd)
 	checkBytes(t, "more put", w.Done(), append(bytes.Repeat([]byte{1}, 20), 2))
 
 	r := wire.NewReader([]byte{2, 1, 0, 4, 2, 3, 2, 4, 4, 'a', 'b', 9})
 	a, none, b, c := r.Bytes(9), r.Bytes(9), r.Bytes(9), r.Bytes(9)
-	spoil(a)
-	spoil(none)
+	testkit.Spoil(a, 0xdd)
+	testkit.Spoil(none, 0xdd)
 	checkBytes(t, "b", b, []byte{2, 3})
-	spoil(b)
+	testkit.Spoil(b, 0xdd)
 	checkBytes(t, "c", c, []byte{4})
-	spoil(c)
+	testkit.Spoil(c, 0xdd)
 	if s := r.Text(9); s != "ab" || r.Byte() != 9 || !r.Whole() {
 		t.Errorf("behind spoilt answers: %q", s)
 	}
@@ -834,11 +827,11 @@ func TestAnswersShareNothing(t *testing.T) {
 	framed := modelFrame([]byte{1, 2, 3})
 	one, _, _ := wire.Unframe(framed)
 	other, _, _ := wire.Unframe(framed)
-	spoil(one)
+	testkit.Spoil(one, 0xdd)
 	checkBytes(t, "other Unframe", other, []byte{1, 2, 3})
 	oneFrame, _ := wire.Frame(other)
 	otherFrame, _ := wire.Frame(other)
-	spoil(oneFrame)
+	testkit.Spoil(oneFrame, 0xdd)
 	checkBytes(t, "other Frame", otherFrame, framed)
 }
 
