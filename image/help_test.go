@@ -347,20 +347,14 @@ func turnBytes(next func(int) int, b []byte, try func([]byte)) {
 	}
 }
 
-// withRoom: l in new memory, with spare room behind it that holds something.
-func withRoom[T any](l []T, junk T) []T {
-	full := slices.Concat(l, slices.Repeat([]T{junk}, 9))
-	return full[:len(l)]
-}
-
 // roomy: p, each list of it with spare room.
 func roomy(p picture) picture {
-	p.nodes = withRoom(p.nodes, api.Node{Path: "/spare", Data: []byte("spare")})
+	p.nodes = testkit.WithRoom(p.nodes, api.Node{Path: "/spare", Data: []byte("spare")})
 	for i := range p.nodes {
-		p.nodes[i].Data = withRoom(p.nodes[i].Data, '?')
+		p.nodes[i].Data = testkit.WithRoom(p.nodes[i].Data, '?')
 	}
-	p.sittings = withRoom(p.sittings, api.Sitting{Session: 77})
-	p.config.Members = withRoom(p.config.Members, api.Member{Id: 77})
+	p.sittings = testkit.WithRoom(p.sittings, api.Sitting{Session: 77})
+	p.config.Members = testkit.WithRoom(p.config.Members, api.Member{Id: 77})
 	return p
 }
 

@@ -576,7 +576,7 @@ func TestHandedInStays(t *testing.T) {
 		if after := tellAll(given); after != before {
 			t.Errorf("what was put was\n%s, is\n%s", before, after)
 		}
-		held := withRoom(p.bytes(), 0xdd)
+		held := testkit.WithRoom(p.bytes(), 0xdd)
 		whole := slices.Clone(held[:cap(held)])
 		got, _ := get(held)
 		spoil(got)

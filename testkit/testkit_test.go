@@ -31,3 +31,18 @@ func TestSpoilReachesTheSpareRoom(t *testing.T) {
 	}
 	testkit.Spoil(nil, 7)
 }
+
+func TestWithRoomIsNewAndHasRoom(t *testing.T) {
+	l := []int{1, 2, 3}
+	got := testkit.WithRoom(l, 7)
+	if !slices.Equal(got, l) || cap(got) < 6 || !slices.Equal(got[:6], []int{1, 2, 3, 7, 7, 7}) {
+		t.Error(got[:cap(got)])
+	}
+	testkit.Spoil(got, 9)
+	if !slices.Equal(l, []int{1, 2, 3}) {
+		t.Error(l)
+	}
+	if empty := testkit.WithRoom(nil, 7); len(empty) != 0 || cap(empty) == 0 {
+		t.Error(empty)
+	}
+}
