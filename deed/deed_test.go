@@ -1011,18 +1011,7 @@ func roomy[T any](l []T, with T) []T {
 	return append(slices.Clone(l), slices.Repeat([]T{with}, room)...)[:len(l)]
 }
 
-// roomyDeed: the same deed, each list of it new and with spare room that is filled.
-func roomyDeed(d api.Deed) api.Deed {
-	d.Data = roomy(d.Data, 0xee)
-	d.Config.Members = roomy(d.Config.Members, api.Member{Id: 99})
-	d.Parts = roomy(d.Parts, api.Deed{Zxid: 99})
-	for i := range d.Parts {
-		d.Parts[i] = roomyDeed(d.Parts[i])
-	}
-	return d
-}
-
-// checkRoom: d and all the spare room of its lists are as roomyDeed made them.
+// checkRoom: d and all the spare room of its lists are as testkit.RoomyDeed made them.
 func checkRoom(t *testing.T, d, like api.Deed) {
 	t.Helper()
 	if !same(d, like) {
@@ -1048,23 +1037,13 @@ func checkRoom(t *testing.T, d, like api.Deed) {
 	}
 }
 
-// spoilDeed overwrites each list of d, those of its parts first.
-func spoilDeed(d api.Deed) {
-	for _, part := range d.Parts {
-		spoilDeed(part)
-	}
-	testkit.Spoil(d.Data, 0xdd)
-	testkit.Spoil(d.Config.Members, api.Member{Id: 77})
-	testkit.Spoil(d.Parts, api.Deed{Zxid: 77, Path: "spoilt"})
-}
-
 func TestArgumentsStayAsTheyAre(t *testing.T) {
 	wrong := eachKind()
 	for i := range wrong {
 		wrong[i].Timeout++
 	}
 	for _, d := range append(eachKind(), wrong...) {
-		given := roomyDeed(d)
+		given := testkit.RoomyDeed(d)
 		deed.Right(given)
 		b, _ := deed.Put(given)
 		testkit.Spoil(b, 0xdd)
@@ -1073,7 +1052,7 @@ func TestArgumentsStayAsTheyAre(t *testing.T) {
 	for _, d := range eachKind() {
 		b := roomy(modelBytes(d), 0xee)
 		got, _ := deed.Get(b)
-		spoilDeed(got)
+		testkit.SpoilDeed(got)
 		if want := roomy(modelBytes(d), 0xee); !bytes.Equal(b[:len(b)+room], want[:len(want)+room]) {
 			t.Errorf("Get of kind %d changed its bytes", d.Kind)
 		}
@@ -1082,9 +1061,9 @@ func TestArgumentsStayAsTheyAre(t *testing.T) {
 
 func TestArgumentsAreNotKept(t *testing.T) {
 	for _, d := range eachKind() {
-		given := roomyDeed(d)
+		given := testkit.RoomyDeed(d)
 		b, _ := deed.Put(given)
-		spoilDeed(given)
+		testkit.SpoilDeed(given)
 		if !bytes.Equal(b, modelBytes(d)) {
 			t.Errorf("Put's bytes of kind %d hang on what was put", d.Kind)
 		}
@@ -1107,7 +1086,7 @@ func TestAnswersShareNothing(t *testing.T) {
 		}
 		first, _ := deed.Get(want)
 		second, _ := deed.Get(want)
-		spoilDeed(first)
+		testkit.SpoilDeed(first)
 		if !same(second, d) {
 			t.Errorf("Get's answers of kind %d share memory", d.Kind)
 		}

@@ -6,10 +6,8 @@ import (
 	"encoding/hex"
 	"fmt"
 	"hash/crc32"
-	"math"
 	"reflect"
 	"slices"
-	"strings"
 	"testing"
 
 	"beadle/api"
@@ -152,91 +150,6 @@ func syncs(zxids ...api.Zxid) []api.Deed {
 	return out
 }
 
-// lastZxid: there is none above it.
-const lastZxid = api.Zxid(1<<62 + 1<<32 - 1)
-
-func longPath(i int) string { return fmt.Sprintf("/%03d", i) + strings.Repeat("x", 196) }
-
-// eachKind: by rising zxids, each kind with all that it may have, and as little as it may have.
-func eachKind() []api.Deed {
-	e := api.Ensemble{Version: 70, Members: []api.Member{{Id: 2, Role: api.Voter, Weight: 1000, Group: 6}, {Id: 5, Role: api.Observer}}}
-	parts := []api.Deed{
-		{Kind: api.DeedCreate, Path: "/a", Data: []byte("new"), Owner: 9, Cversion: 3},
-		{Kind: api.DeedSet, Path: "/", Data: []byte("set"), Version: 4},
-		{Kind: api.DeedDelete, Path: "/b/c", Cversion: 5},
-	}
-	return []api.Deed{
-		{Zxid: 1, Kind: api.DeedSync},
-		{Zxid: 10, Session: 3, Turn: 4, Xid: 5, Time: 6, Kind: api.DeedCreate, Path: "/a", Data: []byte("data"), Owner: 3, Cversion: 7},
-		{Zxid: 11, Kind: api.DeedCreate, Path: "/b"},
-		{Zxid: 20, Session: 3, Turn: 4, Xid: 6, Time: 7, Kind: api.DeedDelete, Path: "/a/b", Cversion: 8},
-		{Zxid: 30, Session: 3, Turn: 4, Xid: 7, Time: 8, Kind: api.DeedSet, Path: "/", Data: bytes.Repeat([]byte{0, 255}, 500), Version: 9},
-		{Zxid: 40, Time: 9, Kind: api.DeedOpen, Timeout: 1000},
-		{Zxid: 50, Session: 3, Turn: 4, Xid: 8, Time: 10, Kind: api.DeedClose, Owner: 3, Parts: parts[2:]},
-		{Zxid: 51, Kind: api.DeedClose, Owner: math.MaxInt64},
-		{Zxid: 60, Session: math.MaxInt64, Turn: math.MaxInt, Xid: math.MaxInt, Time: math.MaxInt64, Kind: api.DeedSync},
-		{Zxid: 70, Session: 1, Kind: api.DeedConfig, Config: e},
-		{Zxid: 1<<32 - 1, Session: 3, Turn: 5, Xid: 1, Time: 11, Kind: api.DeedMulti, Parts: parts},
-		{Zxid: 1 << 32, Session: 3, Turn: 5, Xid: 2, Time: 12, Kind: api.DeedError, Err: api.ErrThere},
-		{Zxid: lastZxid, Kind: api.DeedError, Err: 1},
-	}
-}
-
-// longest: the deeds that take the most bytes.
-func longest() []api.Deed {
-	end := api.Deed{Zxid: 1 << 61, Kind: api.DeedClose, Owner: math.MaxInt64}
-	for i := range 500 {
-		end.Parts = append(end.Parts, api.Deed{Kind: api.DeedDelete, Path: longPath(i), Cversion: math.MaxInt})
-	}
-	multi := api.Deed{Zxid: 1 << 62, Kind: api.DeedMulti}
-	for i := range 16 {
-		multi.Parts = append(multi.Parts, api.Deed{Kind: api.DeedCreate, Path: longPath(i), Data: bytes.Repeat([]byte{7}, 1000), Owner: math.MaxInt64, Cversion: math.MaxInt})
-	}
-	return []api.Deed{end, multi}
-}
-
-// wrong: deeds that are not right, each by one thing.
-func wrong() []api.Deed {
-	long := bytes.Repeat([]byte{7}, 1001)
-	return []api.Deed{
-		{},
-		{Kind: api.DeedSync},
-		{Zxid: -1, Kind: api.DeedSync},
-		{Zxid: math.MinInt64, Kind: api.DeedSync},
-		{Zxid: lastZxid + 1, Kind: api.DeedSync},
-		{Zxid: math.MaxInt64, Kind: api.DeedSync},
-		{Zxid: 1},
-		{Zxid: 1, Kind: 10},
-		{Zxid: 1, Kind: 255},
-		{Zxid: 1, Kind: api.DeedSync, Session: -1},
-		{Zxid: 1, Kind: api.DeedSync, Turn: -1},
-		{Zxid: 1, Kind: api.DeedSync, Xid: -1},
-		{Zxid: 1, Kind: api.DeedSync, Time: -1},
-		{Zxid: 1, Kind: api.DeedSync, Path: "/a"},
-		{Zxid: 1, Kind: api.DeedSync, Data: []byte{0}},
-		{Zxid: 1, Kind: api.DeedSync, Config: api.Ensemble{Version: 1}},
-		{Zxid: 1, Kind: api.DeedCreate, Path: "/"},
-		{Zxid: 1, Kind: api.DeedCreate, Path: "a"},
-		{Zxid: 1, Kind: api.DeedCreate, Path: "/" + strings.Repeat("x", 200)},
-		{Zxid: 1, Kind: api.DeedCreate, Path: "/a", Data: long},
-		{Zxid: 1, Kind: api.DeedDelete, Path: "/"},
-		{Zxid: 1, Kind: api.DeedSet, Path: "/a/"},
-		{Zxid: 1, Kind: api.DeedSet, Path: "/a", Version: -1},
-		{Zxid: 1, Kind: api.DeedOpen},
-		{Zxid: 1, Kind: api.DeedOpen, Timeout: 1001},
-		{Zxid: 1, Kind: api.DeedClose},
-		{Zxid: 1, Kind: api.DeedClose, Owner: 1, Parts: []api.Deed{{Kind: api.DeedSet, Path: "/a"}}},
-		{Zxid: 1, Kind: api.DeedClose, Owner: 1, Parts: slices.Repeat([]api.Deed{{Kind: api.DeedDelete, Path: "/a"}}, 501)},
-		{Zxid: 1, Kind: api.DeedConfig},
-		{Zxid: 1, Kind: api.DeedConfig, Config: api.Ensemble{Version: 2, Members: []api.Member{{Id: 1, Role: api.Voter, Weight: 1}}}},
-		{Zxid: 1, Kind: api.DeedMulti},
-		{Zxid: 1, Kind: api.DeedMulti, Parts: []api.Deed{{Kind: api.DeedDelete, Path: "/a", Time: 1}}},
-		{Zxid: 1, Kind: api.DeedMulti, Parts: slices.Repeat([]api.Deed{{Kind: api.DeedDelete, Path: "/a"}}, 17)},
-		{Zxid: 1, Kind: api.DeedError},
-		{Zxid: 1, Kind: api.DeedError, Err: -1},
-	}
-}
-
 // noDeeds: what may stand in a whole frame and is no right deed's bytes.
 func noDeeds() map[string][]byte {
 	d := syncs(1)[0]
@@ -267,33 +180,13 @@ func anyRow(next func(int) int, count int) []api.Deed {
 	var out []api.Deed
 	z := api.Zxid(0)
 	for range count {
-		kinds := eachKind()
-		d := kinds[next(len(kinds))]
 		z += api.Zxid(1 + next(3)*next(1<<30)*next(9))
-		d.Zxid = z
-		if d.Kind == api.DeedConfig {
-			d.Config.Version = z
-		}
-		if len(d.Data) > 0 {
-			d.Data = bytes.Repeat([]byte{byte(next(256))}, next(300))
-		}
-		out = append(out, d)
+		out = append(out, testkit.AnyDeed(next, z))
 	}
 	return out
 }
 
 // R3
-
-// roomyDeed: the same deed, each list of it new and with spare room that holds junk.
-func roomyDeed(d api.Deed) api.Deed {
-	d.Data = testkit.WithRoom(d.Data, 0xee)
-	d.Config.Members = testkit.WithRoom(d.Config.Members, api.Member{Id: 99})
-	d.Parts = testkit.WithRoom(d.Parts, api.Deed{Zxid: 99})
-	for i := range d.Parts {
-		d.Parts[i] = roomyDeed(d.Parts[i])
-	}
-	return d
-}
 
 // tellAll: all of d, the spare room of its lists too.
 func tellAll(d api.Deed) string {
@@ -302,14 +195,4 @@ func tellAll(d api.Deed) string {
 		text += tellAll(part)
 	}
 	return text
-}
-
-// spoil overwrites each list of d, those of its parts first.
-func spoil(d api.Deed) {
-	for _, part := range d.Parts {
-		spoil(part)
-	}
-	testkit.Spoil(d.Data, 0xdd)
-	testkit.Spoil(d.Config.Members, api.Member{Id: 77})
-	testkit.Spoil(d.Parts, api.Deed{Zxid: 77, Path: "spoilt"})
 }

@@ -27,7 +27,7 @@ func TestBytesOfADeed(t *testing.T) {
 }
 
 func TestPutOfRightDeeds(t *testing.T) {
-	for _, d := range slices.Concat(eachKind(), longest()) {
+	for _, d := range slices.Concat(testkit.EachDeed(), testkit.LongestDeeds()) {
 		if b, errno := segment.Put(d); errno != api.OK || !bytes.Equal(b, framed(d)) {
 			t.Errorf("%d: %s, %v, want %s", d.Kind, short(b), errno, short(framed(d)))
 		}
@@ -35,7 +35,7 @@ func TestPutOfRightDeeds(t *testing.T) {
 }
 
 func TestPutOfDeedsThatAreNotRight(t *testing.T) {
-	for i, d := range wrong() {
+	for i, d := range testkit.WrongDeeds() {
 		if b, errno := segment.Put(d); errno != api.ErrShape || len(b) != 0 {
 			t.Errorf("%d: %s, %v", i, short(b), errno)
 		}
@@ -65,7 +65,7 @@ func TestExample(t *testing.T) {
 }
 
 func TestScanOfOneDeed(t *testing.T) {
-	for _, d := range slices.Concat(eachKind(), longest()) {
+	for _, d := range slices.Concat(testkit.EachDeed(), testkit.LongestDeeds()) {
 		b, want := rowOf(d)
 		checkScan(t, fmt.Sprint("kind ", d.Kind), b, want)
 	}
@@ -73,7 +73,7 @@ func TestScanOfOneDeed(t *testing.T) {
 
 // TestZxidsThatRise: all rows of up to four of these: the deeds end where one is not above the last.
 func TestZxidsThatRise(t *testing.T) {
-	zxids := []api.Zxid{1, 2, 3, 1<<32 - 1, 1 << 32, lastZxid}
+	zxids := []api.Zxid{1, 2, 3, 1<<32 - 1, 1 << 32, testkit.LastZxid}
 	var rows func(row []api.Zxid)
 	rows = func(row []api.Zxid) {
 		rising := len(row)
@@ -134,7 +134,7 @@ func TestBytesThatAreNoFrame(t *testing.T) {
 
 // TestBitsTurned: whichever bit of a row is turned, the deeds are told up to where it stands.
 func TestBitsTurned(t *testing.T) {
-	b, want := rowOf(eachKind()...)
+	b, want := rowOf(testkit.EachDeed()...)
 	for at := range b {
 		for bit := range 8 {
 			turned := bytes.Clone(b)
@@ -178,7 +178,7 @@ func TestAnyBytes(t *testing.T) {
 // TestFramesOfAnything: rows of whole frames, of deeds and of what is none, in any order.
 func TestFramesOfAnything(t *testing.T) {
 	next, seen := testkit.Walk(), [6]int{}
-	pool := eachKind()
+	pool := testkit.EachDeed()
 	for range 5000 {
 		var b []byte
 		for range next(6) {
@@ -198,7 +198,7 @@ func TestFramesOfAnything(t *testing.T) {
 // P14.3
 
 func TestAllBeginnings(t *testing.T) {
-	b, want := rowOf(eachKind()...)
+	b, want := rowOf(testkit.EachDeed()...)
 	for end := range len(b) + 1 {
 		checkScan(t, fmt.Sprint(end, " bytes"), bytes.Clone(b[:end]), want.within(end))
 	}
@@ -257,7 +257,7 @@ func TestWhatIsToldIsPutAgain(t *testing.T) {
 func TestAFullFile(t *testing.T) {
 	var deeds []api.Deed
 	for z := range api.MaxFile / 23 {
-		deeds = append(deeds, syncs(lastZxid-api.MaxFile+api.Zxid(z))...)
+		deeds = append(deeds, syncs(testkit.LastZxid-api.MaxFile+api.Zxid(z))...)
 	}
 	b, want := rowOf(deeds...)
 	if len(b) > api.MaxFile || len(b) < api.MaxFile-23 {
@@ -270,15 +270,15 @@ func TestAFullFile(t *testing.T) {
 // R3
 
 func TestDeedsHandedInStayAsTheyAre(t *testing.T) {
-	for _, d := range slices.Concat(eachKind(), wrong()) {
-		given := roomyDeed(d)
+	for _, d := range slices.Concat(testkit.EachDeed(), testkit.WrongDeeds()) {
+		given := testkit.RoomyDeed(d)
 		before := tellAll(given)
 		b, _ := segment.Put(given)
 		want := bytes.Clone(b)
 		if tellAll(given) != before {
 			t.Errorf("kind %d: changed", d.Kind)
 		}
-		spoil(given)
+		testkit.SpoilDeed(given)
 		if !bytes.Equal(b, want) {
 			t.Errorf("kind %d: the bytes hang on what was put", d.Kind)
 		}
@@ -286,8 +286,8 @@ func TestDeedsHandedInStayAsTheyAre(t *testing.T) {
 }
 
 func TestBytesPutShareNothing(t *testing.T) {
-	for _, d := range eachKind() {
-		given := roomyDeed(d)
+	for _, d := range testkit.EachDeed() {
+		given := testkit.RoomyDeed(d)
 		before := tellAll(given)
 		one, _ := segment.Put(given)
 		other, _ := segment.Put(given)
@@ -299,13 +299,13 @@ func TestBytesPutShareNothing(t *testing.T) {
 }
 
 func TestBytesHandedInStayAsTheyAre(t *testing.T) {
-	row, want := rowOf(eachKind()...)
+	row, want := rowOf(testkit.EachDeed()...)
 	for _, b := range [][]byte{row, row[:len(row)-1], slices.Concat(row, row), append(bytes.Clone(row), 1, 2, 3), {7}, {}} {
 		given := testkit.WithRoom(b, 0xee)
 		before := bytes.Clone(given[:cap(given)])
 		got := scan(given)
 		for _, d := range got.deeds {
-			spoil(d)
+			testkit.SpoilDeed(d)
 		}
 		if !bytes.Equal(given[:cap(given)], before) {
 			t.Error("changed")
@@ -320,10 +320,10 @@ func TestBytesHandedInStayAsTheyAre(t *testing.T) {
 
 // TestTalliesShareNothing: neither those of two calls, nor the deeds of one.
 func TestTalliesShareNothing(t *testing.T) {
-	b, want := rowOf(eachKind()...)
+	b, want := rowOf(testkit.EachDeed()...)
 	one, other := scan(b), scan(b)
 	for i, d := range one.deeds {
-		spoil(d)
+		testkit.SpoilDeed(d)
 		for j := i + 1; j < len(one.deeds); j++ {
 			if !sameDeed(one.deeds[j], want.deeds[j]) {
 				t.Errorf("the deeds %d and %d share memory", i, j)
@@ -337,7 +337,7 @@ func TestTalliesShareNothing(t *testing.T) {
 	}
 	again := scan(b)
 	for i := len(again.deeds) - 1; i >= 0; i-- {
-		spoil(again.deeds[i])
+		testkit.SpoilDeed(again.deeds[i])
 		for j := range i {
 			if !sameDeed(again.deeds[j], want.deeds[j]) {
 				t.Errorf("the deeds %d and %d share memory", i, j)
