@@ -13,6 +13,7 @@ import (
 	"beadle/disk"
 	"beadle/journal"
 	"beadle/segment"
+	"beadle/testkit"
 )
 
 const (
@@ -304,22 +305,9 @@ func syncedOf(d *disk.Disk, file string) int {
 	return len(b)
 }
 
-// tellDisk: all that a disk has, and which bytes of it are synced.
-func tellDisk(d *disk.Disk) string {
-	out := ""
-	crashed := d.Copy()
-	crashed.Crash(0)
-	for _, file := range d.List() {
-		b, _ := d.Read(file)
-		c, _ := crashed.Read(file)
-		out += fmt.Sprintf("%s: %d synced of %x\n", file, len(c), b)
-	}
-	return out
-}
-
 func checkSameDisk(t *testing.T, what string, got, want *disk.Disk) {
 	t.Helper()
-	if a, b := tellDisk(got), tellDisk(want); a != b {
+	if a, b := testkit.TellDisk(got), testkit.TellDisk(want); a != b {
 		t.Fatalf("%s: the disk has\n%.2000s\nwant\n%.2000s", what, a, b)
 	}
 }

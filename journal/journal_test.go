@@ -71,10 +71,10 @@ func TestNamesOfJournals(t *testing.T) {
 	for name, ok := range names {
 		d := disk.New(100)
 		putLoose(d, "x.0000000000", []byte("torn"))
-		before := tellDisk(d)
+		before := testkit.TellDisk(d)
 		j, errno := journal.Open(d, name)
 		if !ok {
-			if j != nil || errno != api.ErrArg || tellDisk(d) != before {
+			if j != nil || errno != api.ErrArg || testkit.TellDisk(d) != before {
 				t.Errorf("%q: %v, %v", name, j, errno)
 			}
 			continue
@@ -317,10 +317,10 @@ func TestOpenSyncsNothing(t *testing.T) {
 	putLoose(d, fileName("x", 1), rowOf(row[1]))
 	put(d, fileName("x", 2), rowOf(row[2]))
 	putLoose(d, fileName("x", 2), rowOf(row[3]))
-	before := tellDisk(d)
+	before := testkit.TellDisk(d)
 	mustOpen(t, d)
-	if tellDisk(d) != before {
-		t.Errorf("%s, was %s", tellDisk(d), before)
+	if testkit.TellDisk(d) != before {
+		t.Errorf("%s, was %s", testkit.TellDisk(d), before)
 	}
 	putLoose(d, fileName("x", 2), []byte("torn"))
 	checkOpen(t, "torn", d)
@@ -348,7 +348,7 @@ func TestAppendStandsBehind(t *testing.T) {
 func TestWrongDeedsAreRefused(t *testing.T) {
 	for _, had := range [][]api.Deed{nil, small(1)[:0], testkit.EachDeed()[:4]} {
 		j, d := journalOf(t, had...)
-		before := tellDisk(d)
+		before := testkit.TellDisk(d)
 		for i, x := range testkit.WrongDeeds() {
 			if x.Zxid > 0 {
 				x.Zxid += 100
@@ -356,7 +356,7 @@ func TestWrongDeedsAreRefused(t *testing.T) {
 			checkErrno(t, fmt.Sprint(i), j.Append(x), api.ErrArg)
 		}
 		checkDeeds(t, "refused", j, had...)
-		if tellDisk(d) != before {
+		if testkit.TellDisk(d) != before {
 			t.Error("the disk has changed")
 		}
 	}
@@ -366,12 +366,12 @@ func TestWrongDeedsAreRefused(t *testing.T) {
 func TestZxidsThatAreNotAbove(t *testing.T) {
 	for _, row := range [][]api.Deed{small(5, 9), {sized(5, 1000), sized(8, 1000), sized(9, 48)}} {
 		j, d := journalOf(t, row...)
-		before := tellDisk(d)
+		before := testkit.TellDisk(d)
 		for z := api.Zxid(1); z <= 9; z++ {
 			checkErrno(t, fmt.Sprint(z), j.Append(small(z)[0]), api.ErrArg)
 		}
 		checkDeeds(t, "refused", j, row...)
-		if tellDisk(d) != before {
+		if testkit.TellDisk(d) != before {
 			t.Error("the disk has changed")
 		}
 		appendAll(t, j, small(10)...)
@@ -471,12 +471,12 @@ func TestNumbersEnd(t *testing.T) {
 	putLoose(d, fileName("x", maxNumber), rowOf(full[:2]...))
 	j := mustOpen(t, d)
 	appendAll(t, j, full[2])
-	before := tellDisk(d)
+	before := testkit.TellDisk(d)
 	checkErrno(t, "no number is left", j.Append(small(4)[0]), api.ErrFull)
 	checkErrno(t, "a wrong deed", j.Append(small(3)[0]), api.ErrArg)
 	checkDeeds(t, "no number is left", j, full...)
-	if tellDisk(d) != before {
-		t.Errorf("%s, was %s", tellDisk(d), before)
+	if testkit.TellDisk(d) != before {
+		t.Errorf("%s, was %s", testkit.TellDisk(d), before)
 	}
 	j.Cut(2)
 	appendAll(t, j, small(4)...)
@@ -670,12 +670,12 @@ func TestCut(t *testing.T) {
 // TestCutOfNothing: what is not cut is not synced either.
 func TestCutOfNothing(t *testing.T) {
 	j, d := journalOf(t, small(1, 2, 3)...)
-	before := tellDisk(d)
+	before := testkit.TellDisk(d)
 	for _, z := range []api.Zxid{3, 4, math.MaxInt64} {
 		checkErrno(t, "Cut", j.Cut(z), api.OK)
 	}
-	if tellDisk(d) != before {
-		t.Errorf("%s, was %s", tellDisk(d), before)
+	if testkit.TellDisk(d) != before {
+		t.Errorf("%s, was %s", testkit.TellDisk(d), before)
 	}
 	none, d := journalOf(t)
 	checkErrno(t, "of no deeds", none.Cut(0), api.OK)
@@ -714,13 +714,13 @@ func TestPurge(t *testing.T) {
 
 func TestPurgeOfOneFile(t *testing.T) {
 	j, d := journalOf(t, small(1, 2)...)
-	before := tellDisk(d)
+	before := testkit.TellDisk(d)
 	for _, z := range []api.Zxid{0, 1, 2, math.MaxInt64} {
 		checkErrno(t, "Purge", j.Purge(z), api.OK)
 		checkDeeds(t, "the last file stays", j, small(1, 2)...)
 	}
-	if tellDisk(d) != before {
-		t.Errorf("%s, was %s", tellDisk(d), before)
+	if testkit.TellDisk(d) != before {
+		t.Errorf("%s, was %s", testkit.TellDisk(d), before)
 	}
 	none, d := journalOf(t)
 	checkErrno(t, "of no deeds", none.Purge(9), api.OK)
